@@ -27,7 +27,48 @@ func orders(n int) [][]int {
 	return list
 }
 
-// P12.7: in whatever order boxes are put in and taken out, a grid answers the same at each step.
+// courses are all lists that have each number from 0 to n - 1 twice.
+func courses(n int) [][]int {
+	if n == 0 {
+		return [][]int{nil}
+	}
+	var list [][]int
+	for _, c := range courses(n - 1) {
+		for i := range len(c) + 1 {
+			once := slices.Insert(slices.Clone(c), i, n-1)
+			for j := range i + 1 {
+				list = append(list, slices.Insert(slices.Clone(once), j, n-1))
+			}
+		}
+	}
+	return list
+}
+
+// P12.7: every course in which four boxes can be put in and taken out again.
+func TestEveryCourse(t *testing.T) {
+	boxes := herd()[:4]
+	points := []api.Point{at(0, 0), at(9, 9), at(10, 10), at(-1, -1), at(20, 0), at(edge, 5)}
+	all := courses(len(boxes))
+	if len(all) != 2520 {
+		t.Errorf("%d courses", len(all))
+	}
+	for _, course := range all {
+		g, w := made(t, 10), newWords(10)
+		for _, n := range course {
+			id := uint32(n)
+			if w.put(id, boxes[n]) == api.OK {
+				put(t, g, id, boxes[n])
+			} else {
+				w.del(id)
+				del(t, g, id)
+			}
+			w.same(t, "on the way", g, points)
+		}
+		wantCounts(t, "at the end", g, 0, 0, 0)
+	}
+}
+
+// P12.7: five boxes put in and taken out in each order, against the words at each step.
 func TestEveryOrder(t *testing.T) {
 	boxes := herd()
 	points := append(pointsOf(-11, -1, 0, 9, 10, 20), at(edge, 5), at(-edge, -edge))
